@@ -167,7 +167,7 @@ func TestP10AgainstList(t *testing.T) {
 		q := NewQueue(w)
 		var list plainQueue
 		for k := range 4000 {
-			// Seldom more is pushed than popped for long, so that it runs empty, too.
+			// Pushes and pops prevail by turns, so that it runs empty, too.
 			if r.Intn(200) < 60+k%80 {
 				x := randomItem(r, k)
 				q.Push(x)
