@@ -101,7 +101,7 @@ func plainCheck(m Model, end int) (Errno, int) {
 	if out(end, 0, 200) {
 		return ErrEnd, 0
 	}
-	if plainCount(m, end, 300) > 300 {
+	if _, _, count := plainRun(m, end, 300); count > 300 {
 		return ErrEvents, 0
 	}
 	return OK, 0
@@ -121,7 +121,7 @@ func TestP1WildModels(t *testing.T) {
 		seen[wantErr]++
 		tryCheck(t, "wild model", m, end, wantErr, wantNum)
 		states, done, e, n := Run(m, end)
-		if e != wantErr || n != wantNum || e != OK && (states != nil || done != nil) {
+		if e != wantErr || n != wantNum || (states == nil) != (e != OK) || (done == nil) != (e != OK) {
 			t.Fatalf("Run = %v, %v, %d, %d, want %d, %d", states, done, e, n, wantErr, wantNum)
 		}
 		net, e, n := Open(m, end)

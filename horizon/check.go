@@ -35,7 +35,7 @@ func Check(m Model, end int) (Errno, int) {
 	if !within(end, 0, maxEnd) {
 		return ErrEnd, 0
 	}
-	if countEvents(m, end) > maxEvents {
+	if _, count := doEvents(m, end); count > maxEvents {
 		return ErrEvents, 0
 	}
 	return OK, 0

@@ -1,9 +1,10 @@
 package horizon
 
-// countEvents does the events of a right model one behind the other and
-// counts them. It gives up just above the limit, since the events of a model
-// can double at every unit of time.
-func countEvents(m Model, end int) int {
+// doEvents does the events of a right model below the end, one behind the
+// other, and answers the processes as they are then and how many events were
+// done. It gives up just above the limit, since the events of a model can
+// double at every unit of time.
+func doEvents(m Model, end int) ([]*process, int) {
 	procs := newProcesses(m)
 	count := 0
 	for count <= maxEvents {
@@ -18,7 +19,7 @@ func countEvents(m Model, end int) int {
 		}
 		count++
 	}
-	return count
+	return procs, count
 }
 
 // leastProcess answers the process at which the least event of all is. No

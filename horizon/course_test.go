@@ -143,22 +143,24 @@ func TestP3NoRule(t *testing.T) {
 	tryCheck(t, "all begin in state 0", m, 200, OK, 0)
 }
 
-// plainEvent and plainCount are the document's words without any queue: all
-// events in one list, of which the least is looked for.
+// plainEvent and plainRun are the document's words without any queue: all
+// events in one list, of which the least is looked for. plainRun gives up
+// when it has done more events than most.
 type plainEvent struct{ proc, time, from, seq, load int }
 
-func plainCount(m Model, end, most int) int {
+func plainRun(m Model, end, most int) (state []int, done [][]Done, count int) {
 	var list []plainEvent
 	for i, s := range m.Starts {
 		list = append(list, plainEvent{s.Proc, s.Time, -1, i, s.Load})
 	}
-	state, made := make([]int, m.Procs), make([]int, m.Procs)
-	for count := 0; ; count++ {
+	state, done = make([]int, m.Procs), make([][]Done, m.Procs)
+	made := make([]int, m.Procs)
+	for ; ; count++ {
 		slices.SortFunc(list, func(a, b plainEvent) int {
 			return slices.Compare([]int{a.time, a.from, a.seq}, []int{b.time, b.from, b.seq})
 		})
 		if len(list) == 0 || list[0].time >= end || count > most {
-			return count
+			return state, done, count
 		}
 		x := list[0]
 		list = list[1:]
@@ -173,6 +175,7 @@ func plainCount(m Model, end, most int) int {
 			}
 			break
 		}
+		done[x.proc] = append(done[x.proc], Done{x.time, x.from, x.seq, x.load, state[x.proc]})
 	}
 }
 
@@ -210,13 +213,13 @@ func TestP3EventsOfRandomModels(t *testing.T) {
 	seen := map[Errno]int{}
 	for range 3000 {
 		m, end := randomModel(r), r.Intn(201)
-		count := plainCount(m, end, 300)
+		_, _, count := plainRun(m, end, 300)
 		want := OK
 		if count > 300 {
 			want = ErrEvents
 		}
 		seen[want]++
-		if got := countEvents(m, end); got != count {
+		if _, got := doEvents(m, end); got != count {
 			t.Fatalf("%d events below %d, want %d: %+v", got, end, count, m)
 		}
 		tryCheck(t, "random model", m, end, want, 0)

@@ -46,13 +46,6 @@ type Net struct {
 	end int
 }
 
-// Run does all that happens below the end (P4). So far it only refuses what
-// Check refuses.
-func Run(m Model, end int) ([]int, [][]Done, Errno, int) {
-	e, n := Check(m, end)
-	return nil, nil, e, n
-}
-
 // Open makes a net (P5). So far it only refuses what Check refuses.
 func Open(m Model, end int) (*Net, Errno, int) {
 	if e, n := Check(m, end); e != OK {

@@ -11,6 +11,7 @@ type process struct {
 	number int
 	state  int
 	sent   int // how many emissions it has made: the next one's Seq
+	done   []Done
 }
 
 // emission is an event under way along a link.
@@ -34,17 +35,30 @@ func newProcesses(m Model) []*process {
 
 // do takes the process through an event and answers what it emits by that.
 func (p *process) do(m Model, x Item) []emission {
-	i := findRule(m.Rules, p.number, p.state, x.Load)
-	if i < 0 {
-		return nil
+	var out []emission
+	if i := findRule(m.Rules, p.number, p.state, x.Load); i >= 0 {
+		p.state = m.Rules[i].Next
+		out = p.emit(m.Rules[i].Emits, x.Time)
 	}
-	r := m.Rules[i]
-	p.state = r.Next
-	out := make([]emission, 0, len(r.Emits))
-	for _, e := range r.Emits {
-		y := Item{Time: x.Time + e.Delay, From: p.number, Seq: p.sent, Load: e.Load}
+	p.done = append(p.done, Done{Time: x.Time, From: x.From, Seq: x.Seq, Load: x.Load, State: p.state})
+	return out
+}
+
+// emit answers the emissions that the process makes at a time.
+func (p *process) emit(emits []Emit, time int) []emission {
+	out := make([]emission, 0, len(emits))
+	for _, e := range emits {
+		y := Item{Time: time + e.Delay, From: p.number, Seq: p.sent, Load: e.Load}
 		out = append(out, emission{Item: y, link: e.Link})
 		p.sent++
 	}
 	return out
+}
+
+// told answers what the process has done, as a list of its own: neither what
+// is changed in it nor what is appended to it falls into the process's list
+// or into another one that was told.
+func (p *process) told() []Done {
+	k := len(p.done)
+	return append([]Done{}, p.done...)[:k:k]
 }
