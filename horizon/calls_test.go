@@ -108,7 +108,8 @@ func plainCheck(m Model, end int) (Errno, int) {
 }
 
 // TestP1WildModels calls all that takes a model: none panics, errors are
-// those that are named first, and beside an error all is nil.
+// those that are named first, and beside an error all is nil. A net that was
+// refused can be stepped, too.
 func TestP1WildModels(t *testing.T) {
 	r := rand.New(rand.NewSource(11))
 	seen := map[Errno]int{}
@@ -127,6 +128,11 @@ func TestP1WildModels(t *testing.T) {
 		net, e, n := Open(m, end)
 		if e != wantErr || n != wantNum || (net == nil) != (e != OK) {
 			t.Fatalf("Open = %v, %d, %d, want %d, %d", net, e, n, wantErr, wantNum)
+		}
+		for range 3 {
+			net.Step(wild(r))
+			net.See(wild(r))
+			net.Over()
 		}
 	}
 	for e := OK; e <= ErrEvents; e++ {

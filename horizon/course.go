@@ -5,7 +5,7 @@ package horizon
 // done. It gives up just above the limit, since the events of a model can
 // double at every unit of time.
 func doEvents(m Model, end int) ([]*process, int) {
-	procs := newProcesses(m)
+	procs := newProcesses(m, end)
 	count := 0
 	for count <= maxEvents {
 		p := leastProcess(procs)

@@ -117,10 +117,10 @@ func TestP3OrderBySeq(t *testing.T) {
 // whole run, along whatever link they go.
 func TestEmissionNumbers(t *testing.T) {
 	m := gate([]Link{{From: 0, To: 1, Ahead: 2}}, []Rule{{Load: 3, Emits: []Emit{{Link: 1, Delay: 2, Load: 4}, {Link: 0, Delay: 7}}}}, nil)
-	p := newProcesses(m)[0]
+	p := newProcesses(m, 100)[0]
 	for k, time := range []int{5, 6} {
 		got := p.do(m, Item{Time: time, From: -1, Load: 3})
-		want := []emission{
+		want := []parcel{
 			{Item: Item{Time: time + 2, From: 0, Seq: 2 * k, Load: 4}, link: 1},
 			{Item: Item{Time: time + 7, From: 0, Seq: 2*k + 1, Load: 0}, link: 0},
 		}

@@ -40,26 +40,3 @@ type Model struct {
 
 // Done is an event that was done, and the state of its process behind it.
 type Done struct{ Time, From, Seq, Load, State int }
-
-// Net is processes that are stepped one by one. Make it by Open.
-type Net struct {
-	end int
-}
-
-// Open makes a net (P5). So far it only refuses what Check refuses.
-func Open(m Model, end int) (*Net, Errno, int) {
-	if e, n := Check(m, end); e != OK {
-		return nil, e, n
-	}
-	return &Net{end: end}, OK, 0
-}
-
-// Step lets a process do what it is sure of (P6). So far it does nothing.
-func (n *Net) Step(p int) bool { return false }
-
-// Over tells whether all is done (P9). So far it always denies it.
-func (n *Net) Over() bool { return false }
-
-// See tells a process's state and what was done there (P5). So far that is
-// nothing.
-func (n *Net) See(p int) (int, []Done) { return 0, nil }

@@ -5,27 +5,22 @@ package horizon
 const eventWidth = 8
 
 // process is one of a model's processes; its queue holds the events that
-// wait at it.
+// wait at it, and its clock tells which of them it is sure of.
 type process struct {
 	Queue
+	clock
 	number int
 	state  int
 	sent   int // how many emissions it has made: the next one's Seq
 	done   []Done
 }
 
-// emission is an event under way along a link.
-type emission struct {
-	Item
-	link int
-}
-
 // newProcesses answers the processes of a right model, with the events of
 // the starts at them.
-func newProcesses(m Model) []*process {
+func newProcesses(m Model, end int) []*process {
 	procs := make([]*process, m.Procs)
 	for i := range procs {
-		procs[i] = &process{Queue: *NewQueue(eventWidth), number: i}
+		procs[i] = &process{Queue: *NewQueue(eventWidth), clock: newClock(m, i, end), number: i}
 	}
 	for i, s := range m.Starts {
 		procs[s.Proc].Push(Item{Time: s.Time, From: -1, Seq: i, Load: s.Load})
@@ -33,9 +28,46 @@ func newProcesses(m Model) []*process {
 	return procs
 }
 
+// takeIn takes in what has come along a link.
+func (p *process) takeIn(x parcel) {
+	switch x.kind {
+	case kindMessage:
+		p.Push(x.Item)
+	case kindWord:
+		p.hear(x.link, x.Time)
+	case kindEnd:
+		p.hearEnd(x.link)
+	}
+}
+
+// advance does the events of which the process is sure: those at a time at
+// which nothing can come any more, as what comes at the same time may be
+// before them. It answers what the process sends by that. The words stand
+// behind the messages: what a word rules out is under way ahead of it.
+func (p *process) advance(m Model) []parcel {
+	var out []parcel
+	sure := p.horizon()
+	for x, ok := p.Least(); ok && x.Time < sure; x, ok = p.Least() {
+		p.Pop()
+		for _, y := range p.do(m, x) {
+			// No process waits for what comes at the end or behind it.
+			if y.Time < p.end {
+				out = append(out, y)
+			}
+		}
+	}
+	return append(out, p.words(sure)...)
+}
+
+// waits tells whether an event that is to be done is in the process's queue.
+func (p *process) waits() bool {
+	x, ok := p.Least()
+	return ok && x.Time < p.end
+}
+
 // do takes the process through an event and answers what it emits by that.
-func (p *process) do(m Model, x Item) []emission {
-	var out []emission
+func (p *process) do(m Model, x Item) []parcel {
+	var out []parcel
 	if i := findRule(m.Rules, p.number, p.state, x.Load); i >= 0 {
 		p.state = m.Rules[i].Next
 		out = p.emit(m.Rules[i].Emits, x.Time)
@@ -45,11 +77,11 @@ func (p *process) do(m Model, x Item) []emission {
 }
 
 // emit answers the emissions that the process makes at a time.
-func (p *process) emit(emits []Emit, time int) []emission {
-	out := make([]emission, 0, len(emits))
+func (p *process) emit(emits []Emit, time int) []parcel {
+	out := make([]parcel, 0, len(emits))
 	for _, e := range emits {
 		y := Item{Time: time + e.Delay, From: p.number, Seq: p.sent, Load: e.Load}
-		out = append(out, emission{Item: y, link: e.Link})
+		out = append(out, parcel{kind: kindMessage, link: e.Link, Item: y})
 		p.sent++
 	}
 	return out

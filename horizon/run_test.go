@@ -75,11 +75,11 @@ func TestP4Ring(t *testing.T) {
 	}
 }
 
-// TestP4EqualTimes has a start and an emission of each process come to
-// process 0 at the same time. Only in the right order do they take it
-// through all its states.
-func TestP4EqualTimes(t *testing.T) {
-	m := Model{
+// equalTimes has a start and an emission of each process come to process 0
+// at the same time. Only in the right order do they take it through all its
+// states.
+func equalTimes() Model {
+	return Model{
 		Procs: 3, States: 5, Loads: 6,
 		Links: []Link{{From: 2, To: 0, Ahead: 6}, {From: 1, To: 0, Ahead: 1}, {From: 0, To: 0, Ahead: 3}},
 		Rules: []Rule{
@@ -90,24 +90,32 @@ func TestP4EqualTimes(t *testing.T) {
 		},
 		Starts: []Start{{Proc: 2, Time: 2}, {Proc: 1, Time: 4}, {Proc: 0, Time: 5, Load: 5}, {Proc: 0, Time: 8, Load: 0}},
 	}
-	tryRun(t, "equal times", m, 9, []int{4, 0, 0}, [][]Done{
+}
+
+func TestP4EqualTimes(t *testing.T) {
+	tryRun(t, "equal times", equalTimes(), 9, []int{4, 0, 0}, [][]Done{
 		{{5, -1, 2, 5, 0}, {8, -1, 3, 0, 1}, {8, 0, 0, 1, 2}, {8, 1, 0, 2, 3}, {8, 2, 0, 3, 4}},
 		{{4, -1, 1, 0, 0}},
 		{{2, -1, 0, 0, 0}},
 	})
 }
 
-// TestP4Numbers: a process numbers its emissions in the rule's order and in
-// the whole run, along whatever link they go; starts are numbered by where
-// they stand.
-func TestP4Numbers(t *testing.T) {
-	m := Model{
+// twoLinks: two links from 0 to 1, along which emissions overtake each
+// other, and one from 0 to itself.
+func twoLinks() Model {
+	return Model{
 		Procs: 2, States: 2, Loads: 3,
 		Links:  []Link{{From: 0, To: 1, Ahead: 1}, {From: 0, To: 0, Ahead: 1}, {From: 0, To: 1, Ahead: 2}},
 		Rules:  []Rule{{Load: 0, Next: 1, Emits: []Emit{{Link: 2, Delay: 9, Load: 1}, {Link: 1, Delay: 1, Load: 1}, {Link: 0, Delay: 9, Load: 2}, {Link: 0, Delay: 3, Load: 0}}}, {State: 1, Load: 0, Next: 0, Emits: []Emit{{Link: 0, Delay: 5, Load: 0}}}},
 		Starts: []Start{{Time: 7}, {Proc: 1, Time: 6, Load: 2}, {Time: 3}, {Proc: 1, Time: 6, Load: 1}},
 	}
-	tryRun(t, "numbers", m, 200, []int{0, 0}, [][]Done{
+}
+
+// TestP4Numbers: a process numbers its emissions in the rule's order and in
+// the whole run, along whatever link they go; starts are numbered by where
+// they stand.
+func TestP4Numbers(t *testing.T) {
+	tryRun(t, "numbers", twoLinks(), 200, []int{0, 0}, [][]Done{
 		{{3, -1, 2, 0, 1}, {4, 0, 1, 1, 1}, {7, -1, 0, 0, 0}},
 		{{6, -1, 1, 2, 0}, {6, -1, 3, 1, 0}, {6, 0, 3, 0, 0}, {12, 0, 0, 1, 0}, {12, 0, 2, 2, 0}, {12, 0, 4, 0, 0}},
 	})
@@ -175,14 +183,17 @@ func TestP4MostEvents(t *testing.T) {
 	tryRefused(t, "endless doubling", doubling(), 200, ErrEvents, 0)
 }
 
-func TestP4Errors(t *testing.T) {
-	for _, c := range []struct {
-		name string
-		make change
-		end  int
-		err  Errno
-		num  int
-	}{
+// wrongModel is a change to pair by which it is refused, and with what.
+type wrongModel struct {
+	name string
+	make change
+	end  int
+	err  Errno
+	num  int
+}
+
+func wrongModels() []wrongModel {
+	return []wrongModel{
 		{"no process", func(m *Model) { m.Procs = 0 }, 9, ErrRange, 0},
 		{"seven states", func(m *Model) { m.States = 7 }, 9, ErrRange, 0},
 		{"loads below 0", func(m *Model) { m.Loads = math.MinInt }, 9, ErrRange, 0},
@@ -208,7 +219,11 @@ func TestP4Errors(t *testing.T) {
 		{"end above 200", func(m *Model) {}, 201, ErrEnd, 0},
 		{"events", func(m *Model) { *m = doubling() }, 9, ErrEvents, 0},
 		{"rule 1 and start 0", func(m *Model) { m.Rules[1].Next, m.Starts[0].Load = 3, 3 }, 201, ErrRule, 1},
-	} {
+	}
+}
+
+func TestP4Errors(t *testing.T) {
+	for _, c := range wrongModels() {
 		m := pair()
 		c.make(&m)
 		tryRefused(t, c.name, m, c.end, c.err, c.num)
@@ -250,10 +265,9 @@ func TestP2RunIsNew(t *testing.T) {
 		if cap(lists[p]) != len(lists[p]) {
 			t.Errorf("process %d: room for %d behind %d", p, cap(lists[p]), len(lists[p]))
 		}
+		clear(lists[p])
 		lists[p] = append(lists[p], Done{Time: -7})
-		for i := range lists[p] {
-			lists[p][i] = Done{Time: -9}
-		}
+		clear(lists[p])
 		for q := p + 1; q < len(lists); q++ {
 			if !slices.Equal(lists[q], wantLists[q]) {
 				t.Errorf("changing the list of %d changes that of %d: %v", p, q, lists[q])
