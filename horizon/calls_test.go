@@ -113,7 +113,8 @@ func plainCheck(m Model, end int) (Errno, int) {
 func TestP1WildModels(t *testing.T) {
 	r := rand.New(rand.NewSource(11))
 	seen := map[Errno]int{}
-	for k := range 20000 {
+	models := many(10000)
+	for k := range models {
 		m, end := wildModel(r), wild(r)
 		if k%4 > 0 {
 			m, end = spoilt(r), r.Intn(204)-1
@@ -121,9 +122,9 @@ func TestP1WildModels(t *testing.T) {
 		wantErr, wantNum := plainCheck(m, end)
 		seen[wantErr]++
 		tryCheck(t, "wild model", m, end, wantErr, wantNum)
-		states, done, e, n := Run(m, end)
-		if e != wantErr || n != wantNum || (states == nil) != (e != OK) || (done == nil) != (e != OK) {
-			t.Fatalf("Run = %v, %v, %d, %d, want %d, %d", states, done, e, n, wantErr, wantNum)
+		a := runSoon(t, "wild model", m, end)
+		if a.e != wantErr || a.n != wantNum || (a.states == nil) != (a.e != OK) || (a.lists == nil) != (a.e != OK) {
+			t.Fatalf("Run = %+v, want %d, %d", a, wantErr, wantNum)
 		}
 		net, e, n := Open(m, end)
 		if e != wantErr || n != wantNum || (net == nil) != (e != OK) {
@@ -136,7 +137,7 @@ func TestP1WildModels(t *testing.T) {
 		}
 	}
 	for e := OK; e <= ErrEvents; e++ {
-		if seen[e] < 20 {
+		if seen[e] < models/500 {
 			t.Errorf("error %d is tried %d times only", e, seen[e])
 		}
 	}
@@ -165,7 +166,7 @@ func TestP1WildSteps(t *testing.T) {
 // the same answer whatever was asked in between.
 func TestP2ModelStaysAsItWas(t *testing.T) {
 	r := rand.New(rand.NewSource(5))
-	for range 3000 {
+	for range many(3000) {
 		m, end := spoilt(r), r.Intn(204)-1
 		before := copyModel(m)
 		e, n := Check(m, end)

@@ -17,9 +17,20 @@ const (
 	maxWidth  = 100
 )
 
-// Check tells whether a model is right (P3). Each step relies on the ones
-// ahead of it: what they let through can be used as an index.
+// Check tells whether a model is right (P3).
 func Check(m Model, end int) (Errno, int) {
+	if e, n := checkParts(m, end); e != OK {
+		return e, n
+	}
+	if countEvents(m, end) > maxEvents {
+		return ErrEvents, 0
+	}
+	return OK, 0
+}
+
+// checkParts is Check without the events. Each step relies on the ones ahead
+// of it: what they let through can be used as an index.
+func checkParts(m Model, end int) (Errno, int) {
 	if !fitsLimits(m) {
 		return ErrRange, 0
 	}
@@ -34,9 +45,6 @@ func Check(m Model, end int) (Errno, int) {
 	}
 	if !within(end, 0, maxEnd) {
 		return ErrEnd, 0
-	}
-	if _, count := doEvents(m, end); count > maxEvents {
-		return ErrEvents, 0
 	}
 	return OK, 0
 }

@@ -62,6 +62,9 @@ func (c *clock) horizon() int {
 	return least
 }
 
+// knowsAll tells whether nothing more can come to the process below the end.
+func (c *clock) knowsAll() bool { return c.horizon() == c.end }
+
 // words answers what the others may know of a process that does nothing more
 // before a time. What was said already is not said again: so there is an end
 // of words.

@@ -1,10 +1,9 @@
 package horizon
 
-// doEvents does the events of a right model below the end, one behind the
-// other, and answers the processes as they are then and how many events were
-// done. It gives up just above the limit, since the events of a model can
-// double at every unit of time.
-func doEvents(m Model, end int) ([]*process, int) {
+// countEvents does the events of a right model below the end, one behind the
+// other, and answers how many they are. It gives up just above the limit,
+// since the events of a model can double at every unit of time.
+func countEvents(m Model, end int) int {
 	procs := newProcesses(m, end)
 	count := 0
 	for count <= maxEvents {
@@ -19,7 +18,7 @@ func doEvents(m Model, end int) ([]*process, int) {
 		}
 		count++
 	}
-	return procs, count
+	return count
 }
 
 // leastProcess answers the process at which the least event of all is. No

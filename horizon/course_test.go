@@ -211,7 +211,8 @@ func randomModel(r *rand.Rand) Model {
 func TestP3EventsOfRandomModels(t *testing.T) {
 	r := rand.New(rand.NewSource(7))
 	seen := map[Errno]int{}
-	for range 3000 {
+	models := many(3000)
+	for range models {
 		m, end := randomModel(r), r.Intn(201)
 		_, _, count := plainRun(m, end, 300)
 		want := OK
@@ -219,12 +220,12 @@ func TestP3EventsOfRandomModels(t *testing.T) {
 			want = ErrEvents
 		}
 		seen[want]++
-		if _, got := doEvents(m, end); got != count {
+		if got := countEvents(m, end); got != count {
 			t.Fatalf("%d events below %d, want %d: %+v", got, end, count, m)
 		}
 		tryCheck(t, "random model", m, end, want, 0)
 	}
-	if seen[OK] < 100 || seen[ErrEvents] < 100 {
+	if seen[OK] < models/30 || seen[ErrEvents] < models/30 {
 		t.Errorf("the random models are one-sided: %v", seen)
 	}
 }

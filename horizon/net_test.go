@@ -178,7 +178,8 @@ func randomNet(r *rand.Rand) (netModel, int) {
 func TestP5ToP9RandomModels(t *testing.T) {
 	r := rand.New(rand.NewSource(37))
 	full := 0
-	for k := range 150 {
+	models := many(150)
+	for k := range models {
 		c, count := randomNet(r)
 		if count > 50 && c.model.Procs > 2 {
 			full++
@@ -190,7 +191,7 @@ func TestP5ToP9RandomModels(t *testing.T) {
 		}
 		w.finish()
 	}
-	if full < 50 {
+	if full < models/3 {
 		t.Errorf("only %d of the random models have several processes and more than 50 events", full)
 	}
 }
@@ -198,7 +199,7 @@ func TestP5ToP9RandomModels(t *testing.T) {
 // mixedModels answers the models written by hand, and some random ones.
 func mixedModels(r *rand.Rand) []netModel {
 	all := netModels()
-	for range 30 {
+	for range many(30) {
 		c, _ := randomNet(r)
 		all = append(all, c)
 	}

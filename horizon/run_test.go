@@ -4,35 +4,92 @@ import (
 	"math"
 	"math/rand"
 	"reflect"
+	"runtime"
 	"slices"
 	"testing"
+	"time"
 )
 
-// tryRun runs a right model. Whether a list without events is nil is left
-// open.
+// answer is what Run answers.
+type answer struct {
+	states []int
+	lists  [][]Done
+	e      Errno
+	n      int
+}
+
+func runOf(m Model, end int) (a answer) {
+	a.states, a.lists, a.e, a.n = Run(m, end)
+	return a
+}
+
+// same holds an answer against the one that is wanted. Whether a list without
+// events is nil is left open; what stands beside an error is not.
+func (a answer) same(want answer) bool {
+	if a.e != OK && (a.states != nil || a.lists != nil) {
+		return false
+	}
+	return a.e == want.e && a.n == want.n && slices.Equal(a.states, want.states) &&
+		slices.EqualFunc(a.lists, want.lists, slices.Equal[[]Done])
+}
+
+// plainAnswer is what Run has to answer at a model that is right but for the
+// number of its events.
+func plainAnswer(m Model, end int) answer {
+	states, lists, count := plainRun(m, end, 300)
+	if count > 300 {
+		return answer{e: ErrEvents}
+	}
+	return answer{states: states, lists: lists}
+}
+
+// runSoon runs a model, and fails where Run hangs.
+func runSoon(t *testing.T, name string, m Model, end int) answer {
+	t.Helper()
+	got := make(chan answer, 1)
+	go func() { got <- runOf(m, end) }()
+	limit := time.NewTimer(time.Minute)
+	defer limit.Stop()
+	select {
+	case a := <-got:
+		return a
+	case <-limit.C:
+		t.Fatalf("%s: Run to %d hangs:\n%s", name, end, allStacks())
+	}
+	return answer{}
+}
+
+// tryAnswer runs a model so many times with one, two and eight processors:
+// however its goroutines run, the answer is the same.
+func tryAnswer(t *testing.T, name string, m Model, end, times int, want answer) {
+	t.Helper()
+	defer runtime.GOMAXPROCS(runtime.GOMAXPROCS(0))
+	for _, processors := range []int{1, 2, 8} {
+		runtime.GOMAXPROCS(processors)
+		for k := range times {
+			if got := runSoon(t, name, m, end); !got.same(want) {
+				t.Errorf("%s: with %d processors, run %d to %d is %+v, want %+v", name, processors, k, end, got, want)
+				return
+			}
+		}
+	}
+}
+
+// manyTimes is how often a model that was written by hand is run, with each
+// number of processors.
+const manyTimes = 20
+
+// tryRun runs a right model many times.
 func tryRun(t *testing.T, name string, m Model, end int, wantStates []int, wantLists [][]Done) {
 	t.Helper()
-	states, lists, e, n := Run(m, end)
-	if e != OK || n != 0 {
-		t.Errorf("%s: Run to %d = %d, %d, want %d, 0", name, end, e, n, OK)
-		return
-	}
-	if !slices.Equal(states, wantStates) {
-		t.Errorf("%s: states at %d are %v, want %v", name, end, states, wantStates)
-	}
-	if !slices.EqualFunc(lists, wantLists, slices.Equal[[]Done]) {
-		t.Errorf("%s: done below %d is %v, want %v", name, end, lists, wantLists)
-	}
+	tryAnswer(t, name, m, end, manyTimes, answer{states: wantStates, lists: wantLists})
 }
 
 // tryRefused runs a model that is not right: beside the error and its number
 // there is nothing.
 func tryRefused(t *testing.T, name string, m Model, end int, wantErr Errno, wantNum int) {
 	t.Helper()
-	states, lists, e, n := Run(m, end)
-	if states != nil || lists != nil || e != wantErr || n != wantNum {
-		t.Errorf("%s: Run = %v, %v, %d, %d, want nil, nil, %d, %d", name, states, lists, e, n, wantErr, wantNum)
-	}
+	tryAnswer(t, name, m, end, manyTimes, answer{e: wantErr, n: wantNum})
 }
 
 // ring: a load that goes from 0 over 1 and 2 to 0 again; process 0 sends to
@@ -232,21 +289,31 @@ func TestP4Errors(t *testing.T) {
 
 func TestP4RandomModels(t *testing.T) {
 	r := rand.New(rand.NewSource(19))
-	busy := 0
-	for range 4000 {
+	busy, refused := 0, 0
+	models := many(4000)
+	for range models {
 		m, end := randomModel(r), r.Intn(201)
-		states, lists, count := plainRun(m, end, 300)
-		if count > 300 {
-			tryRefused(t, "random model", m, end, ErrEvents, 0)
-			continue
-		}
-		if count > 50 {
+		want := plainAnswer(m, end)
+		tryAnswer(t, "random model", m, end, 2, want)
+		if want.e != OK {
+			refused++
+		} else if len(slices.Concat(want.lists...)) > 50 {
 			busy++
 		}
-		tryRun(t, "random model", m, end, states, lists)
 	}
-	if busy < 100 {
-		t.Errorf("only %d of the random models have more than 50 events", busy)
+	if busy < models/40 || refused < models/40 {
+		t.Errorf("of %d random models only %d have more than 50 events, and only %d too many", models, busy, refused)
+	}
+}
+
+// TestP4LivelyModels: random models of several processes with many events.
+func TestP4LivelyModels(t *testing.T) {
+	r := rand.New(rand.NewSource(53))
+	for range many(150) {
+		c, _ := randomNet(r)
+		tryAnswer(t, c.name, c.model, c.end, 4, plainAnswer(c.model, c.end))
+		m, end := livelyModel(r), r.Intn(201)
+		tryAnswer(t, "lively model", m, end, 4, plainAnswer(m, end))
 	}
 }
 
